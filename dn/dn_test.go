@@ -79,6 +79,18 @@ func TestParseErrs(t *testing.T) {
 	}
 }
 
+// P13.1: any byte by two digits of sixteen, of either case.
+func TestDigits(t *testing.T) {
+	for i := range 256 {
+		for _, digits := range []string{"0123456789abcdef", "0123456789ABCDEF"} {
+			s := "cn=x\\" + string(digits[i/16]) + string(digits[i%16])
+			if n, e := Parse(s); e != api.OK || n[0].Val != "x"+string([]byte{byte(i)}) {
+				t.Errorf("%q %q", s, n)
+			}
+		}
+	}
+}
+
 // P13.2: Print.
 func TestPrint(t *testing.T) {
 	for want, n := range map[string][]api.Ava{

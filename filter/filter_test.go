@@ -75,6 +75,18 @@ func TestParsePrint(t *testing.T) {
 	}
 }
 
+// P16.1: any byte by two digits of sixteen, of either case.
+func TestDigits(t *testing.T) {
+	for i := range 256 {
+		for _, digits := range []string{"0123456789abcdef", "0123456789ABCDEF"} {
+			s := "(cn=x\\" + string(digits[i/16]) + string(digits[i%16]) + ")"
+			if f, e := Parse(s); e != api.OK || f.Val != "x"+string([]byte{byte(i)}) {
+				t.Errorf("%q %q", s, f.Val)
+			}
+		}
+	}
+}
+
 // P16.1: texts that are none; ErrDeep as soon as it is met, ErrLong last.
 func TestParseErrs(t *testing.T) {
 	full := strings.Repeat("v", api.MaxValue+1)

@@ -408,10 +408,12 @@ func TestSearch(t *testing.T) {
 			t.Errorf("%d %q", i, got)
 		}
 	}
+	written, conn := filled(t, rule(0, x, true, "", 15))
+	want(t, written, conn, add("OU=Q,o=x", "objectClass:OrganizationalUnit", "Ou:Q", "Description:d"), "0")
+	want(t, written, conn, find(t, "o=x", 2, "(ou=q)", "oU", " description "), "OU=Q,o=x{Ou:Q Description:d} 0")
 	round := api.Filter{Kind: api.FilterAnd, Kids: make([]api.Filter, 1)}
 	round.Kids[0] = round
-	s, conn := filled(t, all)
-	want(t, s, conn, api.Request{Kind: api.OpSearch, DN: "o=x", Filter: round}, "2")
+	want(t, written, conn, api.Request{Kind: api.OpSearch, DN: "o=x", Filter: round}, "2")
 }
 
 // P27.2: what a Kind does not name does not count.

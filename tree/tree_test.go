@@ -370,10 +370,12 @@ func TestModify(t *testing.T) {
 		{[]api.Mod{mod(del, "userpassword", "s"), mod(add, "userpassword", "S", "s")}, strings.Replace(base, "userpassword:s ", "userpassword:S|s ", 1)},
 		{[]api.Mod{mod(rep, "uidnumber", "1", "2"), mod(rep, "uidnumber", "2")}, base + "uidnumber:2 "},
 		{[]api.Mod{mod(rep, "title", "a", "A"), mod(del, "title", "a")}, base},
+		{[]api.Mod{mod(rep, "OBJECTCLASS", "person")}, strings.Replace(base, "|top", "", 1)},
+		{[]api.Mod{mod(add, "objectclass", "account"), mod(add, "uid", "u")}, strings.Replace(base, "|top", "|top|account", 1) + "uid:u "},
 		{[]api.Mod{mod(rep, "uidnumber", "x", "7"), mod(del, "uidnumber", "7"), mod(rep, "uidnumber")}, base},
 
 		{[]api.Mod{mod(9, "none")}, "17"}, {[]api.Mod{mod(add, "none", "a")}, "17"}, {[]api.Mod{mod(9, "mail")}, "2"}, {[]api.Mod{mod(-1, "mail")}, "2"}, {[]api.Mod{mod(add, "mail", "j@x"), mod(add, "none")}, "20"},
-		{[]api.Mod{mod(add, "mail")}, "19"}, {[]api.Mod{mod(add, "title")}, "19"}, {[]api.Mod{mod(add, "mail", "J@X")}, "20"}, {[]api.Mod{mod(add, "title", "a", "A ")}, "20"}, {[]api.Mod{mod(add, "mail", "j@x", "")}, "21"}, {[]api.Mod{mod(add, "uidnumber", "x")}, "21"},
+		{[]api.Mod{mod(add, "mail")}, "19"}, {[]api.Mod{mod(add, "title")}, "19"}, {[]api.Mod{mod(add, "mail", "J@X")}, "20"}, {[]api.Mod{mod(add, "title", "a", "A "), mod(add, "none")}, "20"}, {[]api.Mod{mod(add, "mail", "j@x", "")}, "21"}, {[]api.Mod{mod(add, "uidnumber", "x")}, "21"},
 		{[]api.Mod{mod(del, "title")}, "16"}, {[]api.Mod{mod(del, "title", "a")}, "16"}, {[]api.Mod{mod(del, "title", "")}, "21"}, {[]api.Mod{mod(del, "mail", "none")}, "16"}, {[]api.Mod{mod(del, "mail", "j@x", "J@x")}, "16"}, {[]api.Mod{mod(del, "mail", "none", "")}, "21"}, {[]api.Mod{mod(rep, "title", "a", "A"), mod(del, "title", "a", "a")}, "16"},
 		{[]api.Mod{mod(rep, "cn", "x"), mod(rep, "none")}, "17"}, {[]api.Mod{mod(rep, "cn", "x"), mod(rep, "mail", many...)}, "67"}, {[]api.Mod{mod(del, "cn")}, "67"}, {[]api.Mod{mod(del, "cn", "joe")}, "67"}, {[]api.Mod{mod(rep, "mail", many...), mod(rep, "dc", "a")}, "19"},
 		{[]api.Mod{mod(add, " title ", "a")}, "19"}, {[]api.Mod{mod(rep, "dc", "a"), mod(rep, "mail", "")}, "65"}, {[]api.Mod{mod(del, "sn")}, "65"}, {[]api.Mod{mod(del, "objectclass")}, "65"}, {[]api.Mod{mod(rep, "objectclass", "none")}, "17"}, {[]api.Mod{mod(rep, "uidnumber", "1", "2")}, "19"}, {[]api.Mod{mod(add, "uidnumber", "1"), mod(add, "uidnumber", "2")}, "19"},
@@ -467,6 +469,19 @@ func TestRename(t *testing.T) {
 			t.Error(i, text(e), e.DN)
 		}
 		checkAll(t, x)
+	}
+}
+
+// P22.5: the elder value goes by its own type's syntax, the new one comes by its own.
+func TestRenameSyntax(t *testing.T) {
+	x := small(t)
+	want(t, api.Success, x.Add(made(t, "mail=JOE@X,o=x", "objectclass:person", "cn:a", "sn:b", "mail:joe@x|other", "telephonenumber:1 2")))
+	n, up := name(t, "mail=joe@x,o=x"), name(t, "o=x")
+	want(t, api.Naming, x.Rename(n, api.Ava{Type: "telephoneNumber", Val: "1-2"}, false, up)) // Equal, but not as it is Folded
+	want(t, api.Success, x.Rename(n, api.Ava{Type: "telephoneNumber", Val: "1  2"}, false, up))
+	checkAll(t, x)
+	if e, ok := x.Get(name(t, "telephonenumber=1 2,o=x")); !ok || text(e) != "objectclass:person cn:a sn:b mail:other telephonenumber:1 2 " {
+		t.Error(text(e))
 	}
 }
 

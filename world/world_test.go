@@ -220,11 +220,12 @@ func TestRun(t *testing.T) {
 // P28.3, W6, W8: nothing is kept of what is handed in; a nil World.
 func TestOwn(t *testing.T) {
 	c := config()
+	c.Rules = append(c.Rules, api.Rule{Who: api.Named, Name: []api.Ava{{Type: "cn", Val: "q"}}, Rights: 1})
 	w, e := New(plenty, c)
 	if e != api.OK {
 		t.Fatal(e)
 	}
-	c.Rules[0].Base[0].Val, c.Rules[1].Base[0].Val = "z", "z"
+	c.Rules[0].Base[0].Val, c.Rules[1].Base[0].Val, c.Rules[2].Name[0].Type = "z", "z", "" // a rule that may not be
 	c.Rules[1].Grant = false
 	w.Run(Step{Kind: StepCrash}, Step{Kind: StepOpen}, Step{Kind: StepConnect})
 	data := unit(t, "o", "x", "", "")
