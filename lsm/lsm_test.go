@@ -477,9 +477,102 @@ func TestLong(t *testing.T) {
 	}
 }
 
+// wideTables is tables of level 4, of one cell each, with keys so long.
+func wideTables(lens ...int) [][]api.Cell {
+	var l [][]api.Cell
+	for i, n := range lens {
+		key := "w" + strconv.Itoa(100+i)
+		l = append(l, []api.Cell{at(4), {Key: key + strings.Repeat("k", n-len(key)), Seq: 5}})
+	}
+	return l
+}
+
+// P12.3: the version's bytes may be 2^18, and no more.
+func TestLongest(t *testing.T) {
+	d := made(t, 1000, wideTables(append(slices.Repeat([]int{api.MaxKey}, 31), 2000)...)...)
+	before := open(t, d).Version()
+	met := map[int]int{}
+	for n := 3000; n < 4000; n++ {
+		for _, last := range []string{"b", "bb"} {
+			first := "a" + strings.Repeat("k", n)
+			l := []api.Row{row(first, ""), row(last, "")}
+			b, e := table.Build(batch.Cells(l, 901)...)
+			ok(t, e)
+			v, e := level.Change(before, nil, api.File{ID: 1000, Size: len(b), First: first, Last: last})
+			ok(t, e)
+			img, e := level.Encode(v)
+			ok(t, e)
+			if len(img) < 1<<18-1 || len(img) > 1<<18+1 {
+				continue
+			}
+			met[len(img)]++
+			s := open(t, d.Copy())
+			ok(t, s.Write(l))
+			did, e := s.Flush()
+			if len(img) > 1<<18 && (did || e != api.ErrLong) || len(img) <= 1<<18 && (!did || e != api.OK) {
+				t.Error(n, len(img), did, e)
+			}
+		}
+	}
+	if met[1<<18] == 0 || met[1<<18+1] == 0 {
+		t.Error("not met", met)
+	}
+}
+
+// P12.4, W3: a merge that would make too long a version changes nothing, not even by its Flush.
+func TestMergeLong(t *testing.T) {
+	var tables [][]api.Cell
+	for i := range 4 {
+		long := strings.Repeat("k", 398) + strconv.Itoa(i)
+		tables = append(tables, []api.Cell{at(0), {Key: "a" + long, Val: strings.Repeat("v", 1700), Seq: 10 + i}, {Key: "v" + long, Val: strings.Repeat("v", 1400), Seq: 10 + i}})
+	}
+	tables = append(tables, wideTables(append(slices.Repeat([]int{api.MaxKey}, 31), 1700)...)...)
+	d := made(t, 1000, tables...)
+	for i, l := range [][]api.Row{nil, {row("q", "1")}} {
+		c := d.Copy()
+		s := open(t, c)
+		if l != nil {
+			ok(t, s.Write(l))
+		}
+		before, files, was := told(s), c.List(), s.Version()
+		did, e := s.Compact()
+		if did || e != api.ErrLong || s.Dead() || told(s) != before || !slices.Equal(c.List(), files) || !slices.Equal(s.Version().Files, was.Files) {
+			t.Error(i, did, e)
+		}
+		ok(t, s.Write([]api.Row{row("q", "2")}))
+		if v, found := open(t, c).Get("q"); v != "2" || !found {
+			t.Error(i, v)
+		}
+	}
+}
+
+// P12.4: without anything in the mem nothing is flushed: a table and an image of three things each, and four tables gone.
+func TestMergeSteps(t *testing.T) {
+	d := room(t)
+	s := open(t, d)
+	for range api.MaxZero {
+		ok(t, s.Write([]api.Row{row("a", "1")}))
+		flush(t, s, true)
+	}
+	for n := range 13 {
+		c := d.Copy()
+		s := open(t, c)
+		c.Fuse(n)
+		did, e := s.Compact()
+		if want := n >= 3+3+4; did != want || (e == api.OK) != want {
+			t.Error(n, did, e)
+		}
+	}
+}
+
 // P12.5: Due.
 func TestDue(t *testing.T) {
 	s := open(t, room(t))
+	ok(t, s.Write([]api.Row{row("a", strings.Repeat("x", api.MaxMem-17))}))
+	if !s.Due() {
+		t.Error("so many bytes, and not due")
+	}
+	s = open(t, room(t))
 	ok(t, s.Write([]api.Row{row("a", strings.Repeat("x", api.MaxMem-18))}))
 	if s.Due() {
 		t.Error("early")
