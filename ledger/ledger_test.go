@@ -109,8 +109,8 @@ func TestFiles(t *testing.T) {
 		t.Error(tell(l))
 	}
 	ok(t, l.Drop())
-	if len(d.List()) != 0 || tell(open(t, d)) != "0 " {
-		t.Error(d.List())
+	if len(d.List()) != 0 || tell(l) != "0 " || tell(open(t, d)) != "0 " { // P5.4: it is told as an Open tells it
+		t.Error(d.List(), tell(l))
 	}
 }
 
